@@ -1,7 +1,11 @@
 // Package record: values as the bytes of a page, each behind its length and its sum.
 package record
 
-import "dovecote/api"
+import (
+	"slices"
+
+	"dovecote/api"
+)
 
 const (
 	head     = 3 // bytes ahead of a value: its length, and its sum in two
@@ -42,6 +46,19 @@ func At(b []byte, at int) (string, bool) {
 		from += n
 	}
 	return "", false
+}
+
+// Find the value at a place on pages, each of which is All records. ErrNone: there is no such page; ErrRange: no record begins there.
+func Find(pages []api.Page, at api.Place) (string, api.Errno) {
+	i := slices.IndexFunc(pages, func(p api.Page) bool { return p.Number == at.Page })
+	if i < 0 {
+		return "", api.ErrNone
+	}
+	s, ok := At(pages[i].Bytes, at.At)
+	if !ok {
+		return "", api.ErrRange
+	}
+	return s, api.OK
 }
 
 // size of the record with which bytes begin, whatever its sum; 0: they are too few for it, or its value is too long.

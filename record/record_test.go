@@ -119,3 +119,30 @@ func TestAtEndsAtBytesThatAreNoRecords(t *testing.T) {
 		}
 	}
 }
+
+// P2.5: the page is told by its number, the record by where it begins there.
+func TestFind(t *testing.T) {
+	pages := []api.Page{{Number: 7, Bytes: joined("abc", "")}, {Number: 8, Bytes: joined("a")}}
+	for _, c := range []struct {
+		at   api.Place
+		want string
+		e    api.Errno
+	}{
+		{api.Place{Page: 7}, "abc", api.OK},
+		{api.Place{Page: 7, At: 6}, "", api.OK},
+		{api.Place{Page: 8}, "a", api.OK},
+		{api.Place{Page: 8, At: 6}, "", api.ErrRange},
+		{api.Place{Page: 7, At: -1}, "", api.ErrRange},
+		{api.Place{Page: 7, At: math.MaxInt}, "", api.ErrRange},
+		{api.Place{}, "", api.ErrNone},
+		{api.Place{Page: 6, At: -1}, "", api.ErrNone},
+		{api.Place{Page: 9}, "", api.ErrNone},
+	} {
+		if got, e := record.Find(pages, c.at); got != c.want || e != c.e {
+			t.Errorf("Find(%v): %q, %v, want %q, %v", c.at, got, e, c.want, c.e)
+		}
+	}
+	if got, e := record.Find(nil, api.Place{}); got != "" || e != api.ErrNone {
+		t.Errorf("Find without pages: %q, %v", got, e)
+	}
+}

@@ -4,6 +4,7 @@ import (
 	"strings"
 
 	"dovecote/api"
+	"dovecote/decimal"
 )
 
 // behindName: how many words there must be behind the name, by kinds; of a Get Check tells it.
@@ -129,30 +130,11 @@ func withNumbers(r api.Request, l []int) (api.Request, int) {
 func numbers(words []string) ([]int, bool) {
 	var l []int
 	for _, w := range words {
-		n, ok := number(w)
+		n, ok := decimal.Parse(w)
 		if !ok {
 			return nil, false
 		}
 		l = append(l, n)
 	}
 	return l, true
-}
-
-// number that a word is, if that is how Encode would write it.
-func number(s string) (int, bool) {
-	if s == "" || s[0] == '0' && len(s) > 1 {
-		return 0, false
-	}
-	n := 0
-	for _, b := range []byte(s) {
-		if b < '0' || b > '9' {
-			return 0, false
-		}
-		n = n*10 + int(b-'0')
-		// Here, not behind the loop: a long word would wrap round.
-		if n > api.MaxNumber {
-			return 0, false
-		}
-	}
-	return n, true
 }
