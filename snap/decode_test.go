@@ -150,12 +150,21 @@ func TestDecodeNumbers(t *testing.T) {
 			wantRefused(t, what, saved(append(parts, usualParts()[i+1:]...)...), api.ErrForm)
 			wantRefused(t, what+", and nothing behind it", saved(append(usualParts()[:i:i], c.n)...), api.ErrForm)
 		}
-		for n := range 6 {
-			cut := raw(strings.Repeat("\x80", n))
-			wantRefused(t, fmt.Sprintf("part %d: %d bytes, and another one is told", i, n), saved(append(usualParts()[:i:i], cut)...), api.ErrShort)
+	}
+}
+
+// P4.4: a number whose bytes end behind the sixth one, or ahead of it, ends too early, whatever the last one tells; one that has a seventh byte is in more than six.
+func TestDecodeNumberCut(t *testing.T) {
+	for i := range usualParts() {
+		ahead := usualParts()[:i:i]
+		for _, six := range []raw{"\x80\x80\x80\x80\x80\x80", "\xff\xff\xff\xff\xff\xff"} {
+			for n := range len(six) + 1 {
+				wantRefused(t, fmt.Sprintf("part %d: %q, and the end", i, six[:n]), saved(append(ahead, six[:n])...), api.ErrShort)
+			}
+			for _, seventh := range []raw{"\x00", "\x01", "\x7f", "\x80", "\xff"} {
+				wantRefused(t, fmt.Sprintf("part %d: %q, and %q", i, six, seventh), saved(append(ahead, six+seventh)...), api.ErrForm)
+			}
 		}
-		// The sixth byte tells that there are more than six, ahead of the end.
-		wantRefused(t, fmt.Sprintf("part %d: six bytes, and another one is told", i), saved(append(usualParts()[:i:i], raw("\x80\x80\x80\x80\x80\x80"))...), api.ErrForm)
 	}
 }
 

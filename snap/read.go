@@ -33,20 +33,20 @@ func (r *reader) take(n int) []byte {
 
 func (r *reader) number() int {
 	n := 0
-	for i := range numberBytes {
+	// One byte more than there may be is asked for: without it there are no more than six, and the bytes end too early.
+	for i := range numberBytes + 1 {
 		b := r.take(1)
 		if len(b) == 0 {
 			return 0
 		}
-		n += int(b[0]%more) << (numberBits * i)
-		if b[0] >= more {
-			continue
-		}
 		// A 0 that ends more than one byte adds nothing: the number stands in fewer.
-		if b[0] == 0 && i > 0 {
+		if i == numberBytes || b[0] == 0 && i > 0 {
 			break
 		}
-		return n
+		n += int(b[0]%more) << (numberBits * i)
+		if b[0] < more {
+			return n
+		}
 	}
 	r.refuse(api.ErrForm)
 	return 0
